@@ -6,6 +6,7 @@ import (
 	"testing"
 
 	"dulcimer/api"
+	"dulcimer/chance"
 	"dulcimer/draw"
 	"dulcimer/play"
 	"dulcimer/stripe"
@@ -119,9 +120,9 @@ func TestLook(t *testing.T) {
 
 // P40.3
 func TestNothing(t *testing.T) {
-	var c draw.Chance = 3
+	var c chance.Chance = 3
 	for i := range 600 {
-		s := c.Script(1 + c.Next(20))
+		s := draw.Script(&c, 1+c.Next(20))
 		a, e1 := play.Run(s)
 		b, e2 := play.Drain(s, c.Next(3000))
 		if e1 != api.OK || e2 != api.OK || len(Look(s, a)) != 0 || len(Look(s, b)) != 0 {

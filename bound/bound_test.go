@@ -6,6 +6,7 @@ import (
 	"testing"
 
 	"dulcimer/api"
+	"dulcimer/chance"
 	"dulcimer/draw"
 	"dulcimer/play"
 )
@@ -57,9 +58,9 @@ func TestCount(t *testing.T) {
 
 // P41.3
 func TestAll(t *testing.T) {
-	var c draw.Chance = 17
+	var c chance.Chance = 17
 	for i := range 400 {
-		s := c.Script(10 + c.Next(60))
+		s := draw.Script(&c, 10+c.Next(60))
 		if i%2 == 0 {
 			// One text may have plans of many tables, which are built twice.
 			for _, calls := range s.Clients {

@@ -6,20 +6,12 @@ import (
 	"testing"
 
 	"dulcimer/api"
+	"dulcimer/chance"
 	"dulcimer/conv"
 	"dulcimer/dft"
 	"dulcimer/gold"
 	"dulcimer/root"
 )
-
-func numbers(n int, a uint64) []uint64 {
-	l := make([]uint64, n)
-	for i := range l {
-		a = a*6364136223846793005 + 1442695040888963407
-		l[i] = a | 1<<63
-	}
-	return l
-}
 
 func rootOf(n, dir int) uint64 {
 	w, _ := root.Root(n)
@@ -114,7 +106,7 @@ func TestKernelForeAft(t *testing.T) {
 			if e != api.OK || len(k) != m || !slices.Equal(k[:2*n-1], r) || slices.Max(append(k[2*n-1:], 0)) != 0 {
 				t.Error("Kernel", n, m, dir, e)
 			}
-			x, c := numbers(n, 1), numbers(2*n-1, 2)
+			x, c := chance.Row(n, 1), chance.Row(2*n-1, 2)
 			keep := slices.Clone(x)
 			f, e1 := Fore(x, dir)
 			a, e2 := Aft(c, n, dir)
@@ -169,7 +161,7 @@ func TestWay(t *testing.T) {
 	for _, n := range root.Sizes(60) {
 		m, _ := Least(n)
 		for dir := range 2 {
-			x := numbers(n, 3)
+			x := chance.Row(n, 3)
 			f, _ := Fore(x, dir)
 			padded, _ := conv.Pad(f, m)
 			k, _ := Kernel(n, m, dir)

@@ -8,6 +8,7 @@ import (
 	"dulcimer/api"
 	"dulcimer/audit"
 	"dulcimer/bound"
+	"dulcimer/chance"
 	"dulcimer/draw"
 	"dulcimer/play"
 	"dulcimer/report"
@@ -68,9 +69,9 @@ func TestDo(t *testing.T) {
 
 // P47.2, P47.3
 func TestAny(t *testing.T) {
-	var c draw.Chance = 21
+	var c chance.Chance = 21
 	for range 300 {
-		s := c.Script(1 + c.Next(40))
+		s := draw.Script(&c, 1+c.Next(40))
 		text, _ := script.Print(s)
 		out, line, e := Do(text)
 		a, _ := play.Run(s)

@@ -6,21 +6,13 @@ import (
 	"testing"
 
 	"dulcimer/api"
+	"dulcimer/chance"
 	"dulcimer/dft"
 	"dulcimer/gold"
 	"dulcimer/vec"
 )
 
 const p = api.P
-
-func row(n int, a uint64) []uint64 {
-	l := make([]uint64, n)
-	for i := range l {
-		a = a*6364136223846793005 + 1442695040888963407
-		l[i] = a | 1<<63
-	}
-	return l
-}
 
 // P7.1
 func TestProducts(t *testing.T) {
@@ -32,7 +24,7 @@ func TestProducts(t *testing.T) {
 	}
 	for n := range 7 {
 		for m := range 7 {
-			x, y := row(n, 1), row(m, 2)
+			x, y := chance.Row(n, 1), chance.Row(m, 2)
 			keep := slices.Clone(x)
 			want := make([]uint64, max(n+m-1, 0))
 			if n == 0 || m == 0 {
@@ -62,7 +54,7 @@ func TestProducts(t *testing.T) {
 
 // P7.1
 func TestProductsEdges(t *testing.T) {
-	big, full := make([]uint64, 4097), row(4096, 3)
+	big, full := make([]uint64, 4097), chance.Row(4096, 3)
 	if l, e := Cyclic(big, big); len(l) != 0 || e != api.ErrBig {
 		t.Error(e)
 	}
@@ -131,7 +123,7 @@ func TestPadWrap(t *testing.T) {
 // P7.3
 func TestLaws(t *testing.T) {
 	for _, n := range []int{1, 2, 3, 4, 5, 6, 8, 12, 17} {
-		x, y := row(n, 4), row(n, 5)
+		x, y := chance.Row(n, 4), chance.Row(n, 5)
 		c, _ := Cyclic(x, y)
 		l, _ := Linear(x, y)
 		if w, _ := Wrap(l, n); !slices.Equal(w, c) {

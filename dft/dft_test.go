@@ -6,6 +6,7 @@ import (
 	"testing"
 
 	"dulcimer/api"
+	"dulcimer/chance"
 	"dulcimer/gold"
 	"dulcimer/root"
 	"dulcimer/vec"
@@ -13,21 +14,12 @@ import (
 
 const p = api.P
 
-func row(n int, a uint64) []uint64 {
-	l := make([]uint64, n)
-	for i := range l {
-		a = a*6364136223846793005 + 1442695040888963407
-		l[i] = a | 1<<63
-	}
-	return l
-}
-
 func sizes() []int { return []int{1, 2, 3, 4, 5, 6, 8, 10, 12, 15, 16, 17, 20, 24, 32, 34, 48} }
 
 // P6.1
 func TestPoint(t *testing.T) {
 	for n := range 7 {
-		x := row(n, 5)
+		x := chance.Row(n, 5)
 		for k := -2; k < 9; k++ {
 			for _, w := range []uint64{0, 1, 2, p, p + 3, 1<<64 - 1} {
 				want := uint64(0)
@@ -54,7 +46,7 @@ func TestDft(t *testing.T) {
 		t.Error("the chapter's example", l, e)
 	}
 	for _, n := range sizes() {
-		x := row(n, 7)
+		x := chance.Row(n, 7)
 		keep := slices.Clone(x)
 		for dir := range 2 {
 			w, _ := root.Root(n)
@@ -98,7 +90,7 @@ func TestWrong(t *testing.T) {
 // P6.3
 func TestLaws(t *testing.T) {
 	for _, n := range sizes() {
-		x, y := row(n, 8), row(n, 9)
+		x, y := chance.Row(n, 8), chance.Row(n, 9)
 		for dir := range 2 {
 			fx, _ := Dft(x, dir)
 			fy, _ := Dft(y, dir)

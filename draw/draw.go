@@ -3,25 +3,17 @@ package draw
 
 import (
 	"dulcimer/api"
+	"dulcimer/chance"
 	"dulcimer/play"
 )
 
-// Chance tells numbers one after another, from its own value on.
-type Chance uint64
-
-// Next tells a number from 0 to n less 1.
-func (c *Chance) Next(n int) int {
-	*c = *c*6364136223846793005 + 1442695040888963407
-	return int(*c>>33) % n
-}
-
 // Script tells a script of so many calls.
-func (c *Chance) Script(calls int) play.Script {
+func Script(c *chance.Chance, calls int) play.Script {
 	s := play.Script{Stripes: 1 + c.Next(3), Room: 1 + c.Next(2), Clients: make([][]api.Call, 1+c.Next(8))}
 	for range calls {
 		who := c.Next(len(s.Clients))
 		if len(s.Clients[who]) < 16 {
-			s.Clients[who] = append(s.Clients[who], c.call(len(s.Clients)))
+			s.Clients[who] = append(s.Clients[who], call(c, len(s.Clients)))
 		}
 	}
 	for range c.Next(300) {
@@ -33,17 +25,17 @@ func (c *Chance) Script(calls int) play.Script {
 	return s
 }
 
-func (c *Chance) call(clients int) api.Call {
+func call(c *chance.Chance, clients int) api.Call {
 	n := []int{2, 3, 4, 8}[c.Next(4)]
-	call := api.Call{
+	x := api.Call{
 		Kind: 1 + c.Next(7), Key: api.Key{N: n, Dir: c.Next(8) / 7}, Of: api.Ref{Who: c.Next(clients), At: c.Next(3)},
 		Text: "dulcimer 1\n2 0 naive2\n8 0 naive8\n3 1 naive3\n",
 	}
 	if c.Next(3) == 0 {
-		call.Kind = api.CallGet
+		x.Kind = api.CallGet
 	}
 	for range n {
-		call.X = append(call.X, uint64(c.Next(1000)))
+		x.X = append(x.X, uint64(c.Next(1000)))
 	}
-	return call
+	return x
 }

@@ -5,6 +5,7 @@ import (
 	"testing"
 
 	"dulcimer/api"
+	"dulcimer/chance"
 	"dulcimer/desc"
 	"dulcimer/dft"
 	"dulcimer/need"
@@ -13,15 +14,6 @@ import (
 )
 
 func of(kind, n int, kids ...api.Desc) api.Desc { return api.Desc{Kind: kind, N: n, Kids: kids} }
-
-func row(n int, a uint64) []uint64 {
-	l := make([]uint64, n)
-	for i := range l {
-		a = a*6364136223846793005 + 1442695040888963407
-		l[i] = a | 1<<63
-	}
-	return l
-}
 
 func plans() []api.Desc {
 	s := func(n int) api.Desc { return of(api.Small, n) }
@@ -50,7 +42,7 @@ func TestTransform(t *testing.T) {
 	}
 	for _, d := range plans() {
 		for dir := range 2 {
-			x := row(d.N, 3)
+			x := chance.Row(d.N, 3)
 			keepX, keepD := slices.Clone(x), desc.Clone(d)
 			want, _ := dft.Dft(x, dir)
 			if y, e := Do(d, dir, x); e != api.OK || !slices.Equal(y, want) {
@@ -86,7 +78,7 @@ func TestTransform(t *testing.T) {
 // P17.1: another's numbers may change while it pauses.
 func TestPause(t *testing.T) {
 	for _, d := range []api.Desc{of(api.Small, 2), of(api.Stock, 8), of(api.Naive, 6)} {
-		x := row(d.N, 4)
+		x := chance.Row(d.N, 4)
 		want, _ := dft.Dft(x, 0)
 		y, e := Run(d, 0, x, func(n api.Name) []uint64 {
 			l, _ := table.Make(n)
@@ -101,14 +93,14 @@ func TestPause(t *testing.T) {
 // P17.1
 func TestOtherTables(t *testing.T) {
 	for _, d := range plans() {
-		y, e := Run(d, 1, row(d.N, 5), func(n api.Name) []uint64 { return row(need.Room(n), 6) }, nil)
+		y, e := Run(d, 1, chance.Row(d.N, 5), func(n api.Name) []uint64 { return chance.Row(need.Room(n), 6) }, nil)
 		if e != api.OK || len(y) != d.N || !slices.Equal(y, vec.Red(y)) {
 			t.Error(d, e)
 		}
 		names, _ := need.Tables(d, 1)
 		for _, bad := range names {
 			for _, by := range []int{-1, 1} {
-				y, e := Run(d, 1, row(d.N, 5), func(n api.Name) []uint64 {
+				y, e := Run(d, 1, chance.Row(d.N, 5), func(n api.Name) []uint64 {
 					if n == bad {
 						return make([]uint64, need.Room(n)+by)
 					}

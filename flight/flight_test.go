@@ -5,6 +5,7 @@ import (
 	"testing"
 
 	"dulcimer/api"
+	"dulcimer/chance"
 	"dulcimer/duty"
 	"dulcimer/lock"
 )
@@ -92,12 +93,8 @@ func TestWrong(t *testing.T) {
 // P33.4
 func TestAll(t *testing.T) {
 	for seed := range 50 {
-		a := uint64(seed)
-		var picks []int
-		for range 400 {
-			a = a*6364136223846793005 + 1442695040888963407
-			picks = append(picks, int(a>>33)%6)
-		}
+		ch := chance.Chance(seed)
+		picks := ch.Picks(400, 6)
 		g := New[int]()
 		var m lock.Mutex
 		turn, ended := 0, map[int]bool{}

@@ -5,6 +5,7 @@ import (
 	"testing"
 
 	"dulcimer/api"
+	"dulcimer/chance"
 	"dulcimer/wide"
 )
 
@@ -12,11 +13,7 @@ const p = api.P
 
 func numbers() []uint64 {
 	l := []uint64{0, 1, 2, 3, 7, 1<<16 + 1, 1 << 31, 1<<32 - 2, 1<<32 - 1, 1 << 32, 1<<32 + 1, 1<<63 - 1, 1 << 63, p - 2, p - 1, p, p + 1, p + 2, 1<<64 - 2, 1<<64 - 1}
-	for i, a := 0, uint64(12345); i < 30; i++ {
-		a = a*6364136223846793005 + 1442695040888963407
-		l = append(l, a)
-	}
-	return l
+	return append(l, chance.Row(30, 12345)...)
 }
 
 func of(a uint64) *big.Int { return new(big.Int).SetUint64(a) }

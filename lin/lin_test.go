@@ -7,6 +7,7 @@ import (
 
 	"dulcimer/api"
 	"dulcimer/cand"
+	"dulcimer/chance"
 	"dulcimer/desc"
 	"dulcimer/hist"
 	"dulcimer/model"
@@ -135,24 +136,16 @@ func TestFits(t *testing.T) {
 	}
 }
 
-// chance tells numbers, the same ones each time.
-type chance uint64
-
-func (c *chance) next(n int) int {
-	*c = *c*6364136223846793005 + 1442695040888963407
-	return int(*c>>33) % n
-}
-
 // some tells a history that fits: calls one after another, whose beginnings and ends are then drawn apart.
-func some(c *chance, stripes, room, calls, clients int) []api.Op {
+func some(c *chance.Chance, stripes, room, calls, clients int) []api.Op {
 	s, _ := model.New(stripes, room)
 	var l []api.Op
 	next, free, moment := make([]int, clients), make([]int, clients), 0
 	for i := 0; len(l) < calls; i++ {
-		who := c.next(clients)
-		n := []int{2, 3, 4, 8}[c.next(4)]
+		who := c.Next(clients)
+		n := []int{2, 3, 4, 8}[c.Next(4)]
 		r := api.Ref{Who: who, At: next[who]}
-		call := api.Call{Kind: 1 + c.next(7), Key: key(n), Text: "dulcimer 1\n2 0 naive2\n8 0 naive8\n", Of: api.Ref{Who: c.next(clients), At: c.next(3)}, X: make([]uint64, n)}
+		call := api.Call{Kind: 1 + c.Next(7), Key: key(n), Text: "dulcimer 1\n2 0 naive2\n8 0 naive8\n", Of: api.Ref{Who: c.Next(clients), At: c.Next(3)}, X: make([]uint64, n)}
 		call.X[1] = 5
 		told, ok := model.Answer(s, r, call, plain(n))
 		if !ok {
@@ -161,9 +154,9 @@ func some(c *chance, stripes, room, calls, clients int) []api.Op {
 		s, _ = model.Any(s, r, call, plain(n))
 		next[who]++
 		// Its moment is behind that of the one ahead of it; around that it is as long as its client lets it be.
-		moment = max(moment, free[who]) + 1 + c.next(100)
-		from := max(free[who]+1, moment-c.next(250))
-		to := moment + c.next(250)
+		moment = max(moment, free[who]) + 1 + c.Next(100)
+		from := max(free[who]+1, moment-c.Next(250))
+		to := moment + c.Next(250)
 		free[who] = to
 		l = append(l, api.Op{Ref: r, Call: call, Told: told, From: from, To: to})
 	}
@@ -207,17 +200,17 @@ func by(stripes, room int, l []api.Op) bool {
 
 // P38.2, P38.3: held against all orders.
 func TestAgainstAll(t *testing.T) {
-	var c chance = 5
+	var c chance.Chance = 5
 	no := 0
 	for range 1500 {
-		stripes, room := 1+c.next(2), 1+c.next(2)
-		l := some(&c, stripes, room, 1+c.next(5), 1+c.next(4))
+		stripes, room := 1+c.Next(2), 1+c.Next(2)
+		l := some(&c, stripes, room, 1+c.Next(5), 1+c.Next(4))
 		if hist.Check(l) != api.OK {
 			continue
 		}
 		fits(t, "what was told one after another", stripes, room, l)
 		change(&c, l)
-		l = hist.Cut(l, 4+c.next(10))
+		l = hist.Cut(l, 4+c.Next(10))
 		want := by(stripes, room, l)
 		if !want {
 			no++
@@ -233,9 +226,9 @@ func TestAgainstAll(t *testing.T) {
 }
 
 // change makes one call be told something else.
-func change(c *chance, l []api.Op) {
-	o := &l[c.next(len(l))]
-	switch c.next(4) {
+func change(c *chance.Chance, l []api.Op) {
+	o := &l[c.Next(len(l))]
+	switch c.Next(4) {
 	case 0:
 		o.Told.N = 1 - o.Told.N
 	case 1:
@@ -254,10 +247,10 @@ func change(c *chance, l []api.Op) {
 
 // P38.3
 func TestCut(t *testing.T) {
-	var c chance = 11
+	var c chance.Chance = 11
 	for range 150 {
-		stripes, room := 1+c.next(3), 1+c.next(3)
-		l := some(&c, stripes, room, 12, 1+c.next(6))
+		stripes, room := 1+c.Next(3), 1+c.Next(3)
+		l := some(&c, stripes, room, 12, 1+c.Next(6))
 		if hist.Check(l) != api.OK {
 			continue
 		}

@@ -7,6 +7,7 @@ import (
 	"testing"
 
 	"dulcimer/api"
+	"dulcimer/chance"
 )
 
 func op(who, kind, from, to int, e api.Errno) api.Op {
@@ -111,12 +112,11 @@ func TestQuiet(t *testing.T) {
 			t.Error(i, q)
 		}
 	}
-	a := uint64(3)
+	var ch chance.Chance
 	for range 3000 {
 		var l []api.Op
 		for range 6 {
-			a = a*6364136223846793005 + 1442695040888963407
-			l = append(l, op(0, 1, int(a>>40)%14-2, int(a>>50)%14-2, 0))
+			l = append(l, op(0, 1, ch.Next(14)-2, ch.Next(14)-2, 0))
 		}
 		if got, want := Quiet(l), quiet(l); !slices.Equal(got, want) {
 			t.Fatal(l, got, want)

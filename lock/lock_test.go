@@ -5,6 +5,7 @@ import (
 	"testing"
 
 	"dulcimer/api"
+	"dulcimer/chance"
 	"dulcimer/duty"
 )
 
@@ -202,12 +203,8 @@ func TestAtMostOne(t *testing.T) {
 			m.Unlock(th)
 		}
 	}
-	a := uint64(1)
-	var picks []int
-	for range 300 {
-		a = a*6364136223846793005 + 1442695040888963407
-		picks = append(picks, int(a>>40)%5)
-	}
+	ch := chance.Chance(1)
+	picks := ch.Picks(300, 5)
 	if r := run(t, []fun{one, one, one, one, one}, picks, 100); done != 20 || slices.Contains(r.Over, false) {
 		t.Error(done, r)
 	}

@@ -6,6 +6,7 @@ import (
 	"testing"
 
 	"dulcimer/api"
+	"dulcimer/chance"
 )
 
 func is(t *testing.T, what string, v string, ok bool, want string, wanted bool) {
@@ -92,10 +93,9 @@ func TestAgainstRow(t *testing.T) {
 	for _, room := range []int{1, 2, 5, 64} {
 		l := of(room)
 		var keys []int
-		a := uint64(room)
+		ch := chance.Chance(room)
 		for range 5000 {
-			a = a*6364136223846793005 + 1442695040888963407
-			k, what := int(a>>40)%(room+3), int(a>>20)%4
+			k, what := ch.Next(room+3), ch.Next(4)
 			i := slices.Index(keys, k)
 			there := i >= 0
 			var ok bool

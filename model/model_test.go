@@ -7,6 +7,7 @@ import (
 	"testing"
 
 	"dulcimer/api"
+	"dulcimer/chance"
 	"dulcimer/desc"
 	"dulcimer/dft"
 	"dulcimer/entry"
@@ -237,11 +238,8 @@ func TestStep(t *testing.T) {
 
 // P36.5, and all that is told is new memory.
 func TestAny(t *testing.T) {
-	a := uint64(7)
-	next := func(n int) int {
-		a = a*6364136223846793005 + 1442695040888963407
-		return int(a>>33) % n
-	}
+	ch := chance.Chance(7)
+	next := ch.Next
 	for range 40 {
 		room := 1 + next(3)
 		s, _ := New(1+next(3), room)

@@ -5,6 +5,7 @@ import (
 	"testing"
 
 	"dulcimer/api"
+	"dulcimer/chance"
 	"dulcimer/desc"
 	"dulcimer/dft"
 	"dulcimer/duty"
@@ -13,15 +14,6 @@ import (
 )
 
 func of(kind, n int, kids ...api.Desc) api.Desc { return api.Desc{Kind: kind, N: n, Kids: kids} }
-
-func row(n int, a uint64) []uint64 {
-	l := make([]uint64, n)
-	for i := range l {
-		a = a*6364136223846793005 + 1442695040888963407
-		l[i] = a | 1<<63
-	}
-	return l
-}
 
 func some() []api.Desc {
 	return []api.Desc{of(api.Stock, 4), of(api.Small, 5), of(api.Naive, 6), of(api.Rader, 17, of(api.Stock, 16)), of(api.Split, 16, of(api.Stock, 4), of(api.Blue, 4, of(api.Stock, 8))), of(api.Good, 12, of(api.Stock, 4), of(api.Naive, 3))}
@@ -147,7 +139,7 @@ func TestCopies(t *testing.T) {
 func TestRun(t *testing.T) {
 	for _, d := range some() {
 		for dir := range 2 {
-			x := row(d.N, 2)
+			x := chance.Row(d.N, 2)
 			want, _ := dft.Dft(x, dir)
 			var p *Plan
 			build := alone(t, func(th *duty.Thread) { p, _ = Build(th, store.New(), api.Key{N: d.N, Dir: dir}, d) })
@@ -167,18 +159,14 @@ func TestRun(t *testing.T) {
 // P31.5: whatever else is built, used and dropped.
 func TestAnyTurns(t *testing.T) {
 	for seed := range 30 {
-		a := uint64(seed)
-		var picks []int
-		for range 600 {
-			a = a*6364136223846793005 + 1442695040888963407
-			picks = append(picks, int(a>>33)%4)
-		}
+		ch := chance.Chance(seed)
+		picks := ch.Picks(600, 4)
 		s := store.New()
 		var shared *Plan
 		one := func(th *duty.Thread) {
 			for i, d := range some() {
 				k := api.Key{N: d.N, Dir: (i + th.ID()) % 2}
-				x := row(d.N, uint64(i))
+				x := chance.Row(d.N, uint64(i))
 				want, _ := dft.Dft(x, k.Dir)
 				p, e := Build(th, s, k, d)
 				if e != api.OK {
@@ -188,7 +176,7 @@ func TestAnyTurns(t *testing.T) {
 					shared = p
 					p.Use(th)
 				} else if q := shared; q.Use(th) {
-					z := row(q.Key().N, 9)
+					z := chance.Row(q.Key().N, 9)
 					w, _ := dft.Dft(z, q.Key().Dir)
 					if y, e := q.Run(th, z); e != api.OK || !slices.Equal(y, w) {
 						t.Error("shared", e)

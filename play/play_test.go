@@ -1,4 +1,4 @@
-package play
+package play_test
 
 import (
 	"math"
@@ -6,12 +6,15 @@ import (
 	"testing"
 
 	"dulcimer/api"
+	"dulcimer/chance"
 	"dulcimer/desc"
 	"dulcimer/dft"
+	"dulcimer/draw"
 	"dulcimer/entry"
 	"dulcimer/hist"
 	"dulcimer/lin"
 	"dulcimer/need"
+	"dulcimer/play"
 	"dulcimer/stripe"
 )
 
@@ -33,28 +36,28 @@ func picks(n int, who ...int) []int { return slices.Repeat(who, n) }
 func TestCheck(t *testing.T) {
 	calls := func(n int) []api.Call { return make([]api.Call, n) }
 	for i, c := range []struct {
-		s Script
+		s play.Script
 		e api.Errno
 	}{
-		{Script{Stripes: 1, Room: 1}, api.OK}, {Script{Stripes: 16, Room: 64, Clients: make([][]api.Call, 8), Picks: make([]int, 4096)}, api.OK}, {Script{Stripes: 1, Room: 1, Clients: [][]api.Call{calls(16)}}, api.OK},
-		{Script{}, api.ErrArg}, {Script{Stripes: 17, Room: 1}, api.ErrArg}, {Script{Stripes: 1, Room: 65, Clients: make([][]api.Call, 9)}, api.ErrArg},
-		{Script{Stripes: 1, Room: 1, Clients: make([][]api.Call, 9)}, api.ErrBig}, {Script{Stripes: 1, Room: 1, Clients: [][]api.Call{nil, calls(17)}}, api.ErrBig}, {Script{Stripes: 1, Room: 1, Picks: make([]int, 4097)}, api.ErrBig},
+		{play.Script{Stripes: 1, Room: 1}, api.OK}, {play.Script{Stripes: 16, Room: 64, Clients: make([][]api.Call, 8), Picks: make([]int, 4096)}, api.OK}, {play.Script{Stripes: 1, Room: 1, Clients: [][]api.Call{calls(16)}}, api.OK},
+		{play.Script{}, api.ErrArg}, {play.Script{Stripes: 17, Room: 1}, api.ErrArg}, {play.Script{Stripes: 1, Room: 65, Clients: make([][]api.Call, 9)}, api.ErrArg},
+		{play.Script{Stripes: 1, Room: 1, Clients: make([][]api.Call, 9)}, api.ErrBig}, {play.Script{Stripes: 1, Room: 1, Clients: [][]api.Call{nil, calls(17)}}, api.ErrBig}, {play.Script{Stripes: 1, Room: 1, Picks: make([]int, 4097)}, api.ErrBig},
 	} {
-		_, e1 := Run(c.s)
-		r, e2 := Drain(c.s, 3)
-		if Check(c.s) != c.e || e1 != c.e || e2 != c.e || c.e != api.OK && len(r.Kept)+len(r.Ops) != 0 {
-			t.Error(i, Check(c.s), e1, e2)
+		_, e1 := play.Run(c.s)
+		r, e2 := play.Drain(c.s, 3)
+		if play.Check(c.s) != c.e || e1 != c.e || e2 != c.e || c.e != api.OK && len(r.Kept)+len(r.Ops) != 0 {
+			t.Error(i, play.Check(c.s), e1, e2)
 		}
 	}
-	if r, e := Run(Script{Stripes: 3, Room: 1, Picks: []int{0, 4, -1}}); e != api.OK || len(r.Kept) != 3 || len(r.Order)+len(r.Ops) != 0 {
+	if r, e := play.Run(play.Script{Stripes: 3, Room: 1, Picks: []int{0, 4, -1}}); e != api.OK || len(r.Kept) != 3 || len(r.Order)+len(r.Ops) != 0 {
 		t.Error("no clients", r, e)
 	}
 }
 
 // P39.2, P39.3, P39.4
 func TestRun(t *testing.T) {
-	s := Script{Stripes: 1, Room: 1, Clients: [][]api.Call{{of(api.CallGet, 2), execute(0, 0, 1, 2)}}, Picks: picks(60, 0)}
-	r, e := Run(s)
+	s := play.Script{Stripes: 1, Room: 1, Clients: [][]api.Call{{of(api.CallGet, 2), execute(0, 0, 1, 2)}}, Picks: picks(60, 0)}
+	r, e := play.Run(s)
 	if e != api.OK || len(r.Ops) != 2 || r.Pending != 0 || !slices.Equal(r.Ops[1].Told.Y, []uint64{3, api.P - 1}) || r.Ops[1].From != 2 || r.Ops[1].To != 3 {
 		t.Error("the chapter's example", r, e)
 	}
@@ -71,7 +74,7 @@ func TestLeftOut(t *testing.T) {
 	clients := [][]api.Call{
 		{{Kind: 0}, execute(0, 0), release(5, 5), {Kind: 8}, {Kind: -1}, of(api.CallLookup, 8), execute(0, 5), of(api.CallGet, 7), {Kind: api.CallEvict, Key: api.Key{N: 8, Dir: 3}}, execute(0, 7, 1), {Kind: api.CallImport, Text: "dulcimer 1\n7 0 small7\n"}, {Kind: api.CallImport, Text: "dulcimer 1\n8 0 naive8\n"}, {Kind: api.CallExport}},
 	}
-	r, e := Run(Script{Stripes: 2, Room: 1, Clients: clients, Picks: picks(60, 0)})
+	r, e := play.Run(play.Script{Stripes: 2, Room: 1, Clients: clients, Picks: picks(60, 0)})
 	want := []api.Op{
 		{Ref: api.Ref{At: 5}, Call: clients[0][5], Told: api.Told{E: api.ErrNone}, From: 0, To: 1},
 		{Ref: api.Ref{At: 7}, Call: clients[0][7], Told: api.Told{E: api.ErrSize}, From: 2, To: 3},
@@ -83,7 +86,7 @@ func TestLeftOut(t *testing.T) {
 	if e != api.OK || !hist.Same(r.Ops, want) || len(r.Handles) != 0 {
 		t.Error(r.Ops, e)
 	}
-	r, _ = Run(Script{Stripes: 1, Room: 1, Clients: [][]api.Call{{{Kind: 0}, {Kind: 0}, {Kind: 0}}}, Picks: picks(9, 0)})
+	r, _ = play.Run(play.Script{Stripes: 1, Room: 1, Clients: [][]api.Call{{{Kind: 0}, {Kind: 0}, {Kind: 0}}}, Picks: picks(9, 0)})
 	if !slices.Equal(r.Order, []int{0, 0, 0, 0}) || len(r.Ops) != 0 {
 		t.Error("a yield ahead of each", r.Order)
 	}
@@ -91,9 +94,9 @@ func TestLeftOut(t *testing.T) {
 
 // P39.3: a handle of another client's call, when it has come back.
 func TestOfAnother(t *testing.T) {
-	s := Script{Stripes: 1, Room: 1, Clients: [][]api.Call{{of(api.CallGet, 2)}, {execute(0, 0, 1, 2), execute(0, 0, 1, 2), execute(0, 0, 1), release(0, 0), release(0, 0), execute(0, 0, 1, 2)}}}
+	s := play.Script{Stripes: 1, Room: 1, Clients: [][]api.Call{{of(api.CallGet, 2)}, {execute(0, 0, 1, 2), execute(0, 0, 1, 2), execute(0, 0, 1), release(0, 0), release(0, 0), execute(0, 0, 1, 2)}}}
 	s.Picks = append(append([]int{1, 1}, picks(20, 0)...), picks(40, 1)...)
-	r, _ := Run(s)
+	r, _ := play.Run(s)
 	var told []api.Errno
 	for _, o := range r.Ops[1:] {
 		told = append(told, o.Told.E)
@@ -105,11 +108,11 @@ func TestOfAnother(t *testing.T) {
 
 // P39.2, P39.3: at whatever pick it is left.
 func TestPending(t *testing.T) {
-	s := Script{Stripes: 1, Room: 1, Clients: [][]api.Call{{of(api.CallGet, 8), of(api.CallEvict, 8)}, {of(api.CallGet, 8), execute(1, 0, 1, 2, 3, 4, 5, 6, 7, 8)}}, Ticks: []int{1, 5, 1, 2}}
+	s := play.Script{Stripes: 1, Room: 1, Clients: [][]api.Call{{of(api.CallGet, 8), of(api.CallEvict, 8)}, {of(api.CallGet, 8), execute(1, 0, 1, 2, 3, 4, 5, 6, 7, 8)}}, Ticks: []int{1, 5, 1, 2}}
 	begun := 0
 	for n := range 60 {
 		s.Picks = picks(n, 0, 1)
-		r, e := Run(s)
+		r, e := play.Run(s)
 		pending := 0
 		for _, o := range r.Ops {
 			if o.To == -1 {
@@ -123,7 +126,7 @@ func TestPending(t *testing.T) {
 			t.Error(n, r, e)
 		}
 		begun = len(r.Ops)
-		d, e := Drain(s, 400)
+		d, e := play.Drain(s, 400)
 		if e != api.OK || d.Pending != 0 || len(d.Ops) != len(r.Ops) || !slices.Equal(d.Order[:len(r.Order)], r.Order) {
 			t.Error("Drain", n, d, e)
 		}
@@ -133,7 +136,7 @@ func TestPending(t *testing.T) {
 				t.Error("another run", n, o, d.Ops[i])
 			}
 		}
-		if none, _ := Drain(s, -4); !hist.Same(none.Ops, r.Ops) || !slices.Equal(none.Order, r.Order) {
+		if none, _ := play.Drain(s, -4); !hist.Same(none.Ops, r.Ops) || !slices.Equal(none.Order, r.Order) {
 			t.Error("no rounds", n)
 		}
 	}
@@ -144,8 +147,8 @@ func TestPending(t *testing.T) {
 
 // P39.2: behind the picks a client has just one turn more when its call has come back.
 func TestDrainTurns(t *testing.T) {
-	s := Script{Stripes: 1, Room: 1, Clients: [][]api.Call{{of(api.CallEvict, 8), of(api.CallEvict, 8), of(api.CallEvict, 8)}, {{Kind: 0}, {Kind: 0}}}, Picks: []int{0, 0}}
-	r, _ := Drain(s, 50)
+	s := play.Script{Stripes: 1, Room: 1, Clients: [][]api.Call{{of(api.CallEvict, 8), of(api.CallEvict, 8), of(api.CallEvict, 8)}, {{Kind: 0}, {Kind: 0}}}, Picks: []int{0, 0}}
+	r, _ := play.Drain(s, 50)
 	if len(r.Ops) != 1 || !slices.Equal(r.Order, []int{0, 0, 0, 1, 0, 1}) {
 		t.Error(r.Ops, r.Order)
 	}
@@ -153,9 +156,9 @@ func TestDrainTurns(t *testing.T) {
 
 // P39.4: several handles of one plan.
 func TestHandles(t *testing.T) {
-	s := Script{Stripes: 1, Room: 1, Clients: [][]api.Call{{of(api.CallGet, 8), of(api.CallLookup, 8), of(api.CallGet, 4), of(api.CallGet, 8), of(api.CallGet, 4), release(0, 1)}}, Picks: picks(200, 0)}
-	r, _ := Run(s)
-	want := []Handle{{Ref: api.Ref{At: 0}}, {Ref: api.Ref{At: 1}, Gone: true}, {Ref: api.Ref{At: 2}, First: 2}, {Ref: api.Ref{At: 3}, First: 3}, {Ref: api.Ref{At: 4}, First: 4, Keeps: true}}
+	s := play.Script{Stripes: 1, Room: 1, Clients: [][]api.Call{{of(api.CallGet, 8), of(api.CallLookup, 8), of(api.CallGet, 4), of(api.CallGet, 8), of(api.CallGet, 4), release(0, 1)}}, Picks: picks(200, 0)}
+	r, _ := play.Run(s)
+	want := []play.Handle{{Ref: api.Ref{At: 0}}, {Ref: api.Ref{At: 1}, Gone: true}, {Ref: api.Ref{At: 2}, First: 2}, {Ref: api.Ref{At: 3}, First: 3}, {Ref: api.Ref{At: 4}, First: 4, Keeps: true}}
 	for i, h := range r.Handles {
 		if i >= len(want) || h.Ref != want[i].Ref || h.Gone != want[i].Gone || h.Keeps != want[i].Keeps || h.First != want[i].First || entry.Check(h.X) != api.OK {
 			t.Error(i, h)
@@ -166,50 +169,17 @@ func TestHandles(t *testing.T) {
 	}
 }
 
-// chance tells numbers, the same ones each time.
-type chance uint64
-
-func (c *chance) next(n int) int {
-	*c = *c*6364136223846793005 + 1442695040888963407
-	return int(*c>>33) % n
-}
-
-// some tells a script of any calls.
-func some(c *chance, calls int) Script {
-	s := Script{Stripes: 1 + c.next(2), Room: 1 + c.next(2), Clients: make([][]api.Call, 1+c.next(4))}
-	sizes := []int{2, 3, 4, 8}
-	for range calls {
-		who := c.next(len(s.Clients))
-		n := sizes[c.next(4)]
-		call := api.Call{Kind: 1 + c.next(7), Key: api.Key{N: n, Dir: c.next(8) / 7}, Of: api.Ref{Who: c.next(len(s.Clients)), At: c.next(3)}, Text: "dulcimer 1\n2 0 naive2\n8 0 naive8\n3 1 naive3\n"}
-		if c.next(3) == 0 {
-			call.Kind = api.CallGet
-		}
-		for range n {
-			call.X = append(call.X, uint64(c.next(1000)))
-		}
-		s.Clients[who] = append(s.Clients[who], call)
-	}
-	for range c.next(150) {
-		s.Picks = append(s.Picks, c.next(9)-4)
-	}
-	for range 20 {
-		s.Ticks = append(s.Ticks, c.next(9)-2)
-	}
-	return s
-}
-
 // P39.5
 func TestAny(t *testing.T) {
-	var c chance = 3
+	var c chance.Chance = 3
 	for i := range 1500 {
-		s := some(&c, 1+c.next(12))
-		a, e1 := Run(s)
-		b, e2 := Drain(s, 2000)
+		s := draw.Script(&c, 1+c.Next(12))
+		a, e1 := play.Run(s)
+		b, e2 := play.Drain(s, 2000)
 		if e1 != api.OK || e2 != api.OK || b.Pending != 0 {
 			t.Fatal(i, s, e1, e2)
 		}
-		for _, r := range []Report{a, b} {
+		for _, r := range []play.Report{a, b} {
 			order, plans, e := lin.Find(s.Stripes, s.Room, r.Ops)
 			if e != api.OK || !lin.Fits(s.Stripes, s.Room, r.Ops, order, plans) {
 				t.Fatal("no order", i, s, r.Ops, e)
@@ -226,13 +196,13 @@ func TestAny(t *testing.T) {
 }
 
 // exact looks at the transforms.
-func exact(t *testing.T, r Report) {
+func exact(t *testing.T, r play.Report) {
 	t.Helper()
 	for _, o := range r.Ops {
 		if o.Call.Kind != api.CallExecute || o.To == -1 || o.Told.E != api.OK {
 			continue
 		}
-		i := slices.IndexFunc(r.Handles, func(h Handle) bool { return h.Ref == o.Call.Of })
+		i := slices.IndexFunc(r.Handles, func(h play.Handle) bool { return h.Ref == o.Call.Of })
 		if want, _ := dft.Dft(o.Call.X, r.Handles[i].X.Key.Dir); !slices.Equal(o.Told.Y, want) {
 			t.Error("no transform", o)
 		}
@@ -240,7 +210,7 @@ func exact(t *testing.T, r Report) {
 }
 
 // counted looks at the tables' uses, where nothing is pending.
-func counted(t *testing.T, r Report) {
+func counted(t *testing.T, r play.Report) {
 	t.Helper()
 	uses := map[api.Name]int{}
 	count := func(x api.Entry) {
@@ -273,16 +243,16 @@ func counted(t *testing.T, r Report) {
 
 // What is handed in is neither changed nor kept, and a run can be had again.
 func TestAgain(t *testing.T) {
-	var c chance = 8
+	var c chance.Chance = 8
 	for range 40 {
-		s := some(&c, 10)
-		a, _ := Drain(s, 500)
+		s := draw.Script(&c, 10)
+		a, _ := play.Drain(s, 500)
 		for i := range a.Ops {
 			clear(a.Ops[i].Call.X)
 			clear(a.Ops[i].Told.Desc.Kids)
 		}
-		b, _ := Drain(s, 500)
-		d, _ := Drain(s, math.MaxInt)
+		b, _ := play.Drain(s, 500)
+		d, _ := play.Drain(s, math.MaxInt)
 		if !hist.Same(b.Ops, d.Ops) || len(a.Ops) != len(b.Ops) {
 			t.Error("another run")
 		}

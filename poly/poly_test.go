@@ -6,20 +6,12 @@ import (
 	"testing"
 
 	"dulcimer/api"
+	"dulcimer/chance"
 	"dulcimer/conv"
 	"dulcimer/gold"
 	"dulcimer/root"
 	"dulcimer/vec"
 )
-
-func row(n int, a uint64) []uint64 {
-	l := make([]uint64, n)
-	for i := range l {
-		a = a*6364136223846793005 + 1442695040888963407
-		l[i] = a | 1<<63
-	}
-	return l
-}
 
 // P44.1
 func TestSize(t *testing.T) {
@@ -49,7 +41,7 @@ func TestMul(t *testing.T) {
 	}
 	for _, n := range []int{0, 1, 2, 3, 5, 9, 33, 100} {
 		for _, m := range []int{0, 1, 2, 4, 7, 60, 129} {
-			x, y := row(n, 1), row(m, 2)
+			x, y := chance.Row(n, 1), chance.Row(m, 2)
 			keep := slices.Clone(x)
 			want, _ := conv.Linear(x, y)
 			if l, e := Mul(x, y); e != api.OK || !slices.Equal(l, want) {
@@ -60,7 +52,7 @@ func TestMul(t *testing.T) {
 			}
 		}
 	}
-	full, big := row(4096, 3), row(4097, 4)
+	full, big := chance.Row(4096, 3), chance.Row(4097, 4)
 	if l, e := Mul(full, full); e != api.OK || len(l) != 8191 || l[0] != gold.Mul(full[0], full[0]) || l[8190] != gold.Mul(full[4095], full[4095]) {
 		t.Error("greatest", e)
 	}
@@ -74,7 +66,7 @@ func TestMul(t *testing.T) {
 // P44.1
 func TestAround(t *testing.T) {
 	for _, n := range []int{1, 2, 3, 4, 6, 16, 17, 60, 96, 257} {
-		x, y := row(n, 5), row(n, 6)
+		x, y := chance.Row(n, 5), chance.Row(n, 6)
 		want, _ := conv.Cyclic(x, y)
 		if l, e := Around(x, y); e != api.OK || !slices.Equal(l, want) {
 			t.Error("Around", n, e)
@@ -93,7 +85,7 @@ func TestAround(t *testing.T) {
 // P44.2, P44.4
 func TestPow(t *testing.T) {
 	for _, n := range []int{0, 1, 2, 3, 5} {
-		x := row(n, 7)
+		x := chance.Row(n, 7)
 		want := []uint64{1}
 		for k := range 10 {
 			l, e := Pow(x, k)
@@ -111,7 +103,7 @@ func TestPow(t *testing.T) {
 		}
 	}
 	for _, k := range []int{-1, 65, math.MaxInt, math.MinInt} {
-		if l, e := Pow(row(9999, 1), k); e != api.ErrArg || len(l) != 0 {
+		if l, e := Pow(chance.Row(9999, 1), k); e != api.ErrArg || len(l) != 0 {
 			t.Error(k, e)
 		}
 	}
@@ -119,7 +111,7 @@ func TestPow(t *testing.T) {
 		n, k int
 		e    api.Errno
 	}{{64, 64, api.OK}, {65, 64, api.ErrBig}, {64, 63, api.OK}, {4096, 1, api.OK}, {4097, 1, api.ErrBig}, {2048, 2, api.OK}, {2049, 2, api.ErrBig}, {9999, 0, api.OK}, {0, 64, api.OK}, {1, 64, api.OK}, {1366, 3, api.OK}, {1367, 3, api.ErrBig}} {
-		l, e := Pow(row(c.n, 8), c.k)
+		l, e := Pow(chance.Row(c.n, 8), c.k)
 		want := max((c.n-1)*c.k+1, 0)
 		if e != c.e || e != api.OK && len(l) != 0 || e == api.OK && len(l) != want {
 			t.Error(c, len(l), e)
@@ -137,7 +129,7 @@ func TestEval(t *testing.T) {
 		t.Error("the chapter's example")
 	}
 	for n := range 9 {
-		x, y := row(n, 9), row(n/2+1, 10)
+		x, y := chance.Row(n, 9), chance.Row(n/2+1, 10)
 		product, _ := Mul(x, y)
 		for _, a := range []uint64{0, 1, 7, api.P - 1, 1<<64 - 1} {
 			want := uint64(0)
@@ -161,7 +153,7 @@ func TestEval(t *testing.T) {
 			}
 		}
 	}
-	if l, e := Eval2(row(5000, 1), 4096); e != api.OK || len(l) != 4096 || !vec.Same(l, vec.Red(l)) {
+	if l, e := Eval2(chance.Row(5000, 1), 4096); e != api.OK || len(l) != 4096 || !vec.Same(l, vec.Red(l)) {
 		t.Error(e)
 	}
 	for n, want := range map[int]api.Errno{0: api.ErrSize, -4: api.ErrSize, 7: api.ErrSize, 8191: api.ErrSize, 8192: api.ErrBig, api.MaxN: api.ErrBig, 4112: api.ErrBig, math.MinInt: api.ErrSize} {

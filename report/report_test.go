@@ -6,6 +6,7 @@ import (
 	"testing"
 
 	"dulcimer/api"
+	"dulcimer/chance"
 	"dulcimer/draw"
 	"dulcimer/play"
 	"dulcimer/stripe"
@@ -97,9 +98,9 @@ func TestAll(t *testing.T) {
 
 // P43.5
 func TestLines(t *testing.T) {
-	var c draw.Chance = 4
+	var c chance.Chance = 4
 	for range 100 {
-		r, _ := play.Run(c.Script(c.Next(30)))
+		r, _ := play.Run(draw.Script(&c, c.Next(30)))
 		if n := strings.Count(All(r), "\n"); n != len(r.Ops)+len(r.Kept)+len(r.Tables)+3 {
 			t.Error(n)
 		}

@@ -7,6 +7,7 @@ import (
 	"testing"
 
 	"dulcimer/api"
+	"dulcimer/chance"
 	"dulcimer/draw"
 	"dulcimer/play"
 )
@@ -80,9 +81,9 @@ func TestPrint(t *testing.T) {
 			t.Error(kind, e)
 		}
 	}
-	var c draw.Chance = 6
+	var c chance.Chance = 6
 	for range 300 {
-		s := c.Script(c.Next(40))
+		s := draw.Script(&c, c.Next(40))
 		got, e1 := Print(s)
 		back, line, e2 := Parse(got)
 		if e1 != api.OK || e2 != api.OK || line != 0 || !reflect.DeepEqual(back, owned(s)) {

@@ -7,6 +7,7 @@ import (
 	"testing"
 
 	"dulcimer/api"
+	"dulcimer/chance"
 	"dulcimer/desc"
 	"dulcimer/dft"
 	"dulcimer/duty"
@@ -204,12 +205,8 @@ func TestTexts(t *testing.T) {
 func TestWhole(t *testing.T) {
 	for seed := range 60 {
 		s := fresh(4, 1)
-		a := uint64(seed)
-		var picks []int
-		for range 60 {
-			a = a*6364136223846793005 + 1442695040888963407
-			picks = append(picks, int(a>>33)%3)
-		}
+		ch := chance.Chance(seed)
+		picks := ch.Picks(60, 3)
 		all := "dulcimer 1\n2 0 small2\n2 1 small2\n3 0 small3\n3 1 small3\n"
 		export := func(th *duty.Thread) {
 			for range 3 {
@@ -255,11 +252,8 @@ func TestReleasedMeanwhile(t *testing.T) {
 // P35.6
 func TestAnyTurns(t *testing.T) {
 	for seed := range 60 {
-		a := uint64(seed)
-		next := func(n int) int {
-			a = a*6364136223846793005 + 1442695040888963407
-			return int(a>>33) % n
-		}
+		ch := chance.Chance(seed)
+		next := ch.Next
 		s := fresh(1+seed%3, 1+seed%2)
 		sizes := []int{2, 3, 4, 8, 17}
 		var calls [5][10][3]int
@@ -299,10 +293,7 @@ func TestAnyTurns(t *testing.T) {
 				}
 			}
 		}
-		var picks []int
-		for range 500 {
-			picks = append(picks, next(5))
-		}
+		picks := ch.Picks(500, 5)
 		run(t, picks, 3000, one, one, one, one, one)
 		uses := map[api.Name]int{}
 		count := func(x api.Entry) {

@@ -7,6 +7,7 @@ import (
 	"testing"
 
 	"dulcimer/api"
+	"dulcimer/chance"
 	"dulcimer/draw"
 	"dulcimer/hist"
 	"dulcimer/play"
@@ -131,9 +132,9 @@ func TestDiffSame(t *testing.T) {
 
 // P46.4
 func TestLaws(t *testing.T) {
-	var c draw.Chance = 12
+	var c chance.Chance = 12
 	for range 100 {
-		s := c.Script(c.Next(30))
+		s := draw.Script(&c, c.Next(30))
 		whole, _ := play.Run(s)
 		o, e := Order(s)
 		again, f := play.Run(o)

@@ -6,20 +6,12 @@ import (
 	"testing"
 
 	"dulcimer/api"
+	"dulcimer/chance"
 	"dulcimer/dft"
 	"dulcimer/gold"
 )
 
 const p = api.P
-
-func row(n int, a uint64) []uint64 {
-	l := make([]uint64, n)
-	for i := range l {
-		a = a*6364136223846793005 + 1442695040888963407
-		l[i] = a | 1<<63
-	}
-	return l
-}
 
 // P10.1, P10.3
 func TestDo(t *testing.T) {
@@ -34,7 +26,7 @@ func TestDo(t *testing.T) {
 	for n := 1; n <= 5; n++ {
 		for k := range 20 {
 			for dir := range 2 {
-				x := row(n, uint64(k))
+				x := chance.Row(n, uint64(k))
 				if k == 0 {
 					x[0] = 1<<64 - 1
 				}
@@ -66,7 +58,7 @@ func TestTwist(t *testing.T) {
 	if !slices.Equal(Twist([]uint64{1, 1, 1}, 2), []uint64{1, 2, 4}) || len(Twist(nil, 2)) != 0 {
 		t.Error("the chapter's example")
 	}
-	x := row(9, 3)
+	x := chance.Row(9, 3)
 	l := Twist(x, p+5)
 	for j := range x {
 		if l[j] != gold.Mul(x[j], gold.Pow(5, uint64(j))) {
@@ -83,7 +75,7 @@ func TestRows(t *testing.T) {
 	for b := 1; b <= 5; b++ {
 		for many := 1; many < 4; many++ {
 			for dir := range 2 {
-				x := row(b*many, 4)
+				x := chance.Row(b*many, 4)
 				keep := slices.Clone(x)
 				var want []uint64
 				for i := range many {

@@ -6,21 +6,13 @@ import (
 	"testing"
 
 	"dulcimer/api"
+	"dulcimer/chance"
 	"dulcimer/dft"
 	"dulcimer/gold"
 	"dulcimer/root"
 )
 
 const p = api.P
-
-func row(n int, a uint64) []uint64 {
-	l := make([]uint64, n)
-	for i := range l {
-		a = a*6364136223846793005 + 1442695040888963407
-		l[i] = a | 1<<63
-	}
-	return l
-}
 
 // P11.1
 func TestHas(t *testing.T) {
@@ -50,7 +42,7 @@ func TestPass(t *testing.T) {
 	}
 	for n := 2; n <= 32; n *= 2 {
 		for s := 1; s <= n/2; s *= 2 {
-			x, w := row(n, 1), row(n, 2)
+			x, w := chance.Row(n, 1), chance.Row(n, 2)
 			keepX, keepW := slices.Clone(x), slices.Clone(w)
 			l, e := Pass(x, s, w)
 			if e != api.OK || len(l) != n {
@@ -84,7 +76,7 @@ func TestPass(t *testing.T) {
 func TestDo(t *testing.T) {
 	for n := 1; n <= 256; n *= 2 {
 		for dir := range 2 {
-			x := row(n, 3)
+			x := chance.Row(n, 3)
 			keep := slices.Clone(x)
 			want, _ := dft.Dft(x, dir)
 			if l, e := Do(x, dir); e != api.OK || !slices.Equal(l, want) {

@@ -5,6 +5,7 @@ import (
 	"testing"
 
 	"dulcimer/api"
+	"dulcimer/chance"
 	"dulcimer/duty"
 	"dulcimer/need"
 	"dulcimer/table"
@@ -163,11 +164,7 @@ func TestTurns(t *testing.T) {
 func TestAnyOrder(t *testing.T) {
 	for seed := range 40 {
 		s := New()
-		a := uint64(seed)
-		next := func(n int) int {
-			a = a*6364136223846793005 + 1442695040888963407
-			return int(a>>33) % n
-		}
+		ch := chance.Chance(seed)
 		have := map[api.Name]int{}
 		one := func(th *duty.Thread) {
 			n := []api.Name{powers(4), powers(8), chirp(8)}[th.ID()%3]
@@ -191,10 +188,7 @@ func TestAnyOrder(t *testing.T) {
 				}
 			}
 		}
-		var picks []int
-		for range 400 {
-			picks = append(picks, next(6))
-		}
+		picks := ch.Picks(400, 6)
 		r, e := duty.Run([]func(*duty.Thread){one, one, one, one, one, one}, picks, 300)
 		if e != api.OK || slices.Contains(r.Over, false) || len(s.Names()) != 0 || s.Dirty() != 0 {
 			t.Fatal(e, r.Over, s.Names(), s.Dirty())

@@ -6,6 +6,7 @@ import (
 	"testing"
 
 	"dulcimer/api"
+	"dulcimer/chance"
 	"dulcimer/desc"
 	"dulcimer/dft"
 	"dulcimer/duty"
@@ -247,11 +248,8 @@ func TestKnownWhenKept(t *testing.T) {
 // P34.4
 func TestAnyTurns(t *testing.T) {
 	for seed := range 60 {
-		a := uint64(seed)
-		next := func(n int) int {
-			a = a*6364136223846793005 + 1442695040888963407
-			return int(a>>33) % n
-		}
+		ch := chance.Chance(seed)
+		next := ch.Next
 		room := 1 + seed%3
 		x, s, c := fresh(room, 3, 1, 4, 1, 5, 9, 2, 6)
 		sizes := []int{2, 3, 4, 8, 17}
@@ -297,10 +295,7 @@ func TestAnyTurns(t *testing.T) {
 				}
 			}
 		}
-		var picks []int
-		for range 600 {
-			picks = append(picks, next(5))
-		}
+		picks := ch.Picks(600, 5)
 		run(t, picks, 3000, one, one, one, one, one)
 		st := x.Stats()
 		if st.Measured > len(x.Known()) || st.Built > 2*st.Inserted || len(x.Flying()) != 0 || s.Dirty() != 0 || c.Asked()%2 != 0 {

@@ -6,27 +6,16 @@ import (
 	"testing"
 
 	"dulcimer/api"
+	"dulcimer/chance"
 	"dulcimer/gold"
 )
 
 const p = api.P
 
-func row(n int, a uint64) []uint64 {
-	l := make([]uint64, n)
-	for i := range l {
-		a = a*6364136223846793005 + 1442695040888963407
-		l[i] = a | 1<<63
-	}
-	if n > 0 {
-		l[0] = 1<<64 - 1
-	}
-	return l
-}
-
 // P5.1
 func TestOneByOne(t *testing.T) {
 	for n := 0; n < 9; n++ {
-		x, y := row(n, 1), row(n, 2)
+		x, y := chance.Row(n, 1), chance.Row(n, 2)
 		keepX, keepY := slices.Clone(x), slices.Clone(y)
 		sum, e1 := Add(x, y)
 		product, e2 := Mul(x, y)
@@ -104,7 +93,7 @@ func TestNew(t *testing.T) {
 // P5.3
 func TestLaws(t *testing.T) {
 	for n := 0; n < 8; n++ {
-		x, y, z := row(n, 3), row(n, 4), row(n, 5)
+		x, y, z := chance.Row(n, 3), chance.Row(n, 4), chance.Row(n, 5)
 		if !Same(Rev(Rev(x)), x) {
 			t.Error("Rev twice", n)
 		}
