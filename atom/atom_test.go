@@ -5,8 +5,8 @@ import (
 	"slices"
 	"testing"
 
-	"dulcimer/api"
 	"dulcimer/duty"
+	"dulcimer/watch"
 )
 
 // P29.1
@@ -19,15 +19,15 @@ func TestInt(t *testing.T) {
 		t.Error("Swap, and coming round")
 	}
 	var none *Int
-	yields, e := duty.Run([]func(*duty.Thread){
+	yields := watch.Run(t.Error, nil, 9,
 		func(th *duty.Thread) {
 			if none.Load(th) != 0 || none.Add(th, 3) != 0 || none.Swap(th, 0, 0) || none.Peek() != 0 || a.Peek() != 0 {
 				t.Error("nil")
 			}
 		},
 		func(th *duty.Thread) { a.Load(th) }, func(th *duty.Thread) { a.Add(th, 1) }, func(th *duty.Thread) { a.Swap(th, 1, 2) }, func(th *duty.Thread) { a.Peek() },
-	}, nil, 9)
-	if e != api.OK || !slices.Equal(yields.Order, []int{0, 1, 2, 3, 4, 1, 2, 3}) || a.Peek() != 2 {
+	)
+	if !slices.Equal(yields.Order, []int{0, 1, 2, 3, 4, 1, 2, 3}) || a.Peek() != 2 {
 		t.Error("all but Peek yield once", yields, a.Peek())
 	}
 }
@@ -35,7 +35,7 @@ func TestInt(t *testing.T) {
 // P29.1: the yield is ahead of the change.
 func TestYieldFirst(t *testing.T) {
 	var a Int
-	duty.Run([]func(*duty.Thread){
+	watch.Run(t.Error, []int{0, 1, 0, 1}, 0,
 		func(th *duty.Thread) { a.Add(th, 5) },
 		func(th *duty.Thread) {
 			if a.Peek() != 0 {
@@ -45,7 +45,7 @@ func TestYieldFirst(t *testing.T) {
 				t.Error("Load ahead of its yield", got)
 			}
 		},
-	}, []int{0, 1, 0, 1}, 0)
+	)
 }
 
 // P29.2
@@ -78,8 +78,8 @@ func TestSum(t *testing.T) {
 			}
 		}
 	}
-	fs := []func(*duty.Thread){one, one, one, one}
-	if _, e := duty.Run(fs, []int{3, 3, 1, 2, 0, 1, 1, 2, 2, 2}, 20); e != api.OK || a.Peek() != sum || did != 1 {
-		t.Error(e, a.Peek(), sum, did)
+	watch.Run(t.Error, []int{3, 3, 1, 2, 0, 1, 1, 2, 2, 2}, 20, one, one, one, one)
+	if a.Peek() != sum || did != 1 {
+		t.Error(a.Peek(), sum, did)
 	}
 }

@@ -42,10 +42,12 @@ func TestPlain(t *testing.T) {
 func TestList(t *testing.T) {
 	stock := func(n int) api.Desc { return of(api.Stock, n) }
 	for n, want := range map[int][]api.Desc{
-		1: {of(api.Naive, 1)},
-		2: {of(api.Naive, 2), of(api.Small, 2), stock(2), of(api.Blue, 2, of(api.Small, 4))},
-		4: {of(api.Naive, 4), of(api.Small, 4), stock(4), of(api.Split, 4, of(api.Small, 2), of(api.Small, 2)), of(api.Blue, 4, stock(8))},
-		5: {of(api.Naive, 5), of(api.Small, 5), of(api.Rader, 5, of(api.Small, 4)), of(api.Blue, 5, stock(16))},
+		1:  {of(api.Naive, 1)},
+		2:  {of(api.Naive, 2), of(api.Small, 2), stock(2), of(api.Blue, 2, of(api.Small, 4))},
+		4:  {of(api.Naive, 4), of(api.Small, 4), stock(4), of(api.Split, 4, of(api.Small, 2), of(api.Small, 2)), of(api.Blue, 4, stock(8))},
+		3:  {of(api.Naive, 3), of(api.Small, 3), of(api.Rader, 3, of(api.Small, 2)), of(api.Blue, 3, stock(8))},
+		64: {of(api.Naive, 64), stock(64), of(api.Split, 64, of(api.Small, 2), stock(32)), of(api.Blue, 64, stock(128))},
+		5:  {of(api.Naive, 5), of(api.Small, 5), of(api.Rader, 5, of(api.Small, 4)), of(api.Blue, 5, stock(16))},
 		12: {of(api.Naive, 12), of(api.Split, 12, of(api.Small, 2), of(api.Naive, 6)), of(api.Split, 12, of(api.Small, 3), of(api.Small, 4)),
 			of(api.Good, 12, of(api.Small, 4), of(api.Small, 3)), of(api.Good, 12, of(api.Small, 3), of(api.Small, 4)), of(api.Blue, 12, stock(32))},
 		257:      {of(api.Rader, 257, stock(256)), of(api.Blue, 257, stock(1024))},

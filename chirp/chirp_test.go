@@ -75,6 +75,13 @@ func TestRow(t *testing.T) {
 }
 
 // P12.1
+func TestRowGreatest(t *testing.T) {
+	if l, e := Row(2, 0, 1<<25); e != api.OK || len(l) != 1<<25 || l[2] != api.P-1 {
+		t.Error(len(l), e)
+	}
+}
+
+// P12.1
 func TestLeast(t *testing.T) {
 	if m, _ := Least(3); m != 8 {
 		t.Error("the chapter's example", m)

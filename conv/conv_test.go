@@ -115,6 +115,9 @@ func TestPadWrap(t *testing.T) {
 	if l, e := Pad(x, api.MaxN); e != api.OK || len(l) != api.MaxN {
 		t.Error(e)
 	}
+	if l, e := Wrap(x, api.MaxN); e != api.OK || len(l) != api.MaxN || l[4] != 5 {
+		t.Error(e)
+	}
 	if x[0] != p+1 {
 		t.Error("changed")
 	}

@@ -8,6 +8,7 @@ import (
 	"dulcimer/chance"
 	"dulcimer/duty"
 	"dulcimer/lock"
+	"dulcimer/watch"
 )
 
 func key(n int) api.Key { return api.Key{N: n} }
@@ -26,7 +27,7 @@ func TestJoin(t *testing.T) {
 		got[th.ID()] = v
 		m.Unlock(th)
 	}
-	r, e := duty.Run([]func(*duty.Thread){
+	watch.Run(t.Error, []int{0, 0, 1, 2, 1, 2}, 20,
 		func(th *duty.Thread) {
 			m.Lock(th)
 			if !g.Begin(key(8)) || g.Begin(key(8)) || !g.Begin(api.Key{N: 8, Dir: 1}) || !g.Begin(key(4)) {
@@ -55,16 +56,16 @@ func TestJoin(t *testing.T) {
 			}
 			m.Unlock(th)
 		}, join, join,
-	}, []int{0, 0, 1, 2, 1, 2}, 20)
-	if e != api.OK || slices.Contains(r.Over, false) || got[1] != 5 || got[2] != 5 {
-		t.Error(r, e, got)
+	)
+	if got[1] != 5 || got[2] != 5 {
+		t.Error(got)
 	}
 }
 
 // P33.2
 func TestWrong(t *testing.T) {
 	var none *Group[int]
-	r, _ := duty.Run([]func(*duty.Thread){func(th *duty.Thread) {
+	watch.Run(t.Error, nil, 9, func(th *duty.Thread) {
 		g := New[int]()
 		var m lock.Mutex
 		for i, c := range []struct {
@@ -84,9 +85,9 @@ func TestWrong(t *testing.T) {
 		if none.End(th, key(8), 1, api.OK) != api.ErrNil || g.End(nil, key(8), 1, api.OK) != api.ErrNil || g.End(th, key(4), 1, api.OK) != api.ErrNone || len(g.Keys()) != 1 {
 			t.Error("End")
 		}
-	}}, nil, 9)
-	if !r.Over[0] || none.Begin(key(8)) || none.Joined(key(8)) != 0 || len(none.Keys()) != 0 {
-		t.Error("nil", r)
+	})
+	if none.Begin(key(8)) || none.Joined(key(8)) != 0 || len(none.Keys()) != 0 {
+		t.Error("nil")
 	}
 }
 
@@ -118,9 +119,9 @@ func TestAll(t *testing.T) {
 				m.Unlock(th)
 			}
 		}
-		r, e := duty.Run([]func(*duty.Thread){one, one, one, one, one, one}, picks, 200)
-		if e != api.OK || slices.Contains(r.Over, false) || len(g.Keys()) != 0 {
-			t.Fatal(seed, r.Over, e)
+		watch.Run(t.Error, picks, 200, one, one, one, one, one, one)
+		if t.Failed() || len(g.Keys()) != 0 {
+			t.Fatal(seed, g.Keys())
 		}
 	}
 }

@@ -26,7 +26,8 @@ func TestCheck(t *testing.T) {
 		{[]api.Op{op(0, 0, 0, 1), op(1, 0, 1, 2)}, api.ErrTwice}, {[]api.Op{op(0, 0, 0, 2), op(1, 0, 0, 3)}, api.ErrTwice}, {[]api.Op{op(0, 0, 0, 3), op(1, 0, 1, 3)}, api.ErrTwice}, {[]api.Op{op(0, 1, 0, 2), op(0, 0, 2, 3)}, api.ErrTwice},
 		{[]api.Op{op(0, 0, 0, -1), op(0, 1, 2, 3)}, api.ErrState}, {[]api.Op{op(0, 0, 0, 5), op(0, 1, 2, 6)}, api.ErrState}, {[]api.Op{op(0, 1, 0, 1), op(0, 0, 2, 3)}, api.ErrState}, {[]api.Op{op(0, 0, 0, 1), op(0, 1, 2, -1), op(0, 2, 4, 5)}, api.ErrState}, {[]api.Op{op(0, 0, 7, 8), op(1, 0, 0, 1), op(0, 9, 2, 3), op(0, 4, 5, 6)}, api.ErrState},
 	} {
-		if e := Check(c.l); e != c.e {
+		keep := slices.Clone(c.l)
+		if e := Check(c.l); e != c.e || !Same(c.l, keep) {
 			t.Error(i, c.l, e)
 		}
 	}
@@ -121,7 +122,7 @@ func TestMost(t *testing.T) {
 		want int
 	}{
 		{nil, 0}, {[]api.Op{op(0, 0, 1, 4), op(1, 0, 2, 3)}, 2}, {[]api.Op{op(0, 0, 1, 4), op(1, 0, 4, 5)}, 1}, {[]api.Op{op(0, 0, 1, -1), op(1, 0, 4, 5), op(2, 0, 9, -1), op(3, 0, 10, 11)}, 3},
-		{[]api.Op{op(0, 0, 3, 3), op(1, 0, 5, 2), op(2, 0, 1, -7)}, 0}, {[]api.Op{op(0, 0, 3, 5), op(1, 0, 3, 5), op(2, 0, 3, 5)}, 3}, {[]api.Op{op(0, 0, math.MinInt, math.MaxInt), op(1, 0, -9, -3)}, 2}, {[]api.Op{op(0, 0, -9, -1), op(1, 0, 3, 4)}, 2},
+		{[]api.Op{op(0, 0, 3, 3), op(1, 0, 5, 2), op(2, 0, 1, -7)}, 0}, {[]api.Op{op(0, 0, 3, 5), op(1, 0, 3, 5), op(2, 0, 3, 5)}, 3}, {[]api.Op{op(0, 0, math.MinInt, math.MaxInt), op(1, 0, -9, -3)}, 2}, {[]api.Op{op(0, 0, -9, -1), op(1, 0, 3, 4)}, 2}, {[]api.Op{op(0, 0, 1, 9), op(1, 0, 3, 4), op(2, 0, 5, 2)}, 2},
 	} {
 		if n := Most(c.l); n != c.want {
 			t.Error(i, n)

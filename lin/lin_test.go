@@ -138,14 +138,19 @@ func TestFits(t *testing.T) {
 
 // some tells a history that fits: calls one after another, whose beginnings and ends are then drawn apart.
 func some(c *chance.Chance, stripes, room, calls, clients int) []api.Op {
+	return drawn(c, stripes, room, calls, clients, 250, []int{2, 3, 4, 8}, []int{1, 2, 3, 4, 5, 6, 7})
+}
+
+// drawn is some, with calls of some sizes and kinds, each up to so long.
+func drawn(c *chance.Chance, stripes, room, calls, clients, long int, sizes, kinds []int) []api.Op {
 	s, _ := model.New(stripes, room)
 	var l []api.Op
 	next, free, moment := make([]int, clients), make([]int, clients), 0
 	for i := 0; len(l) < calls; i++ {
 		who := c.Next(clients)
-		n := []int{2, 3, 4, 8}[c.Next(4)]
+		n := sizes[c.Next(len(sizes))]
 		r := api.Ref{Who: who, At: next[who]}
-		call := api.Call{Kind: 1 + c.Next(7), Key: key(n), Text: "dulcimer 1\n2 0 naive2\n8 0 naive8\n", Of: api.Ref{Who: c.Next(clients), At: c.Next(3)}, X: make([]uint64, n)}
+		call := api.Call{Kind: kinds[c.Next(len(kinds))], Key: key(n), Text: "dulcimer 1\n2 0 naive2\n8 0 naive8\n", Of: api.Ref{Who: c.Next(clients), At: c.Next(3)}, X: make([]uint64, n)}
 		call.X[1] = 5
 		told, ok := model.Answer(s, r, call, plain(n))
 		if !ok {
@@ -155,12 +160,21 @@ func some(c *chance.Chance, stripes, room, calls, clients int) []api.Op {
 		next[who]++
 		// Its moment is behind that of the one ahead of it; around that it is as long as its client lets it be.
 		moment = max(moment, free[who]) + 1 + c.Next(100)
-		from := max(free[who]+1, moment-c.Next(250))
-		to := moment + c.Next(250)
+		from := max(free[who]+1, moment-c.Next(long))
+		to := moment + c.Next(long)
 		free[who] = to
 		l = append(l, api.Op{Ref: r, Call: call, Told: told, From: from, To: to})
 	}
-	return ranks(l)
+	return shuffled(c, ranks(l))
+}
+
+// shuffled moves calls, so that the order in which they were made is not that in which they are looked at.
+func shuffled(c *chance.Chance, l []api.Op) []api.Op {
+	for i := range l {
+		j := c.Next(i + 1)
+		l[i], l[j] = l[j], l[i]
+	}
+	return l
 }
 
 // ranks makes times of places, each once, and the next call of one begin behind its last one's end.
@@ -181,37 +195,58 @@ func ranks(l []api.Op) []api.Op {
 	return l
 }
 
-// by tells whether any order fits, by going through all of them.
-func by(stripes, room int, l []api.Op) bool {
-	var look func(order []int, plans []api.Desc) bool
-	look = func(order []int, plans []api.Desc) bool {
-		if Fits(stripes, room, l, order, plans) {
-			return true
+// by tells whether any order fits, by going on with whatever may come next; a Get that was told nothing has any plan worth a trial.
+func by(l []api.Op, done int, s model.State) bool {
+	all := true
+	for i, o := range l {
+		all = all && (o.To == never || done&(1<<i) != 0)
+	}
+	if all {
+		return true
+	}
+	for i, o := range l {
+		waits := slices.ContainsFunc(l, func(p api.Op) bool {
+			j := slices.IndexFunc(l, func(q api.Op) bool { return q.Ref == p.Ref })
+			return done&(1<<j) == 0 && hist.Ahead(p, o)
+		})
+		if done&(1<<i) != 0 || waits {
+			continue
 		}
-		for i := range l {
-			if !slices.Contains(order, i) && look(append(slices.Clone(order), i), append(slices.Clone(plans), planOf(l, l[i]))) {
+		if o.To != never {
+			if next, ok := model.Step(s, o.Ref, o.Call, o.Told); ok && by(l, done|1<<i, next) {
+				return true
+			}
+			continue
+		}
+		plans, _ := cand.List(max(o.Call.Key.N, 1))
+		for _, d := range plans {
+			if next, ok := model.Any(s, o.Ref, o.Call, d); ok && !model.Same(next, s) && by(l, done|1<<i, next) {
 				return true
 			}
 		}
-		return false
 	}
-	return look(nil, nil)
+	return false
 }
 
 // P38.2, P38.3: held against all orders.
 func TestAgainstAll(t *testing.T) {
 	var c chance.Chance = 5
 	no := 0
-	for range 1500 {
-		stripes, room := 1+c.Next(2), 1+c.Next(2)
-		l := some(&c, stripes, room, 1+c.Next(5), 1+c.Next(4))
+	for i := range 3000 {
+		stripes, room := 1+c.Next(2), 1+c.Next(3)
+		l := drawn(&c, stripes, room, 3+c.Next(7), 2+c.Next(7), 400+c.Next(1500), []int{2, 3, 4, 5, 8}, []int{1, 1, 1, 2, 2, 2, 3, 3, 4, 5, 6, 7})
 		if hist.Check(l) != api.OK {
-			continue
+			t.Fatal(l)
 		}
 		fits(t, "what was told one after another", stripes, room, l)
-		change(&c, l)
-		l = hist.Cut(l, 4+c.Next(10))
-		want := by(stripes, room, l)
+		for range c.Next(3) {
+			change(&c, l)
+		}
+		if i%2 == 0 {
+			l = hist.Cut(l, 4+c.Next(10))
+		}
+		start, _ := model.New(stripes, room)
+		want := by(l, 0, start)
 		if !want {
 			no++
 		}
@@ -220,7 +255,7 @@ func TestAgainstAll(t *testing.T) {
 			t.Fatal(stripes, room, l, want, e)
 		}
 	}
-	if no < 50 {
+	if no < 200 {
 		t.Error("too few that do not fit", no)
 	}
 }
@@ -259,8 +294,28 @@ func TestCut(t *testing.T) {
 		}
 	}
 	alone := some(&c, 2, 2, 12, 1)
-	if order := fits(t, "one client alone", 2, 2, alone); !slices.Equal(order, []int{0, 1, 2, 3, 4, 5, 6, 7, 8, 9, 10, 11}) {
-		t.Error(order)
+	for i, at := range fits(t, "one client alone", 2, 2, alone) {
+		if alone[at].Ref.At != i {
+			t.Error("not in its order", i, alone[at])
+		}
+	}
+}
+
+// P38.2: many at one time, of few keys and little room, so that it plays a part what is ahead of what.
+func TestCrowded(t *testing.T) {
+	var c chance.Chance = 29
+	for i := range 400 {
+		stripes, room := 1+c.Next(2), 1+c.Next(3)
+		l := drawn(&c, stripes, room, 12, 12, 300+c.Next(1500), []int{2, 3, 4, 5, 6, 8}, []int{1, 1, 1, 2, 2, 2, 3, 3, 4, 5, 7})
+		if hist.Check(l) != api.OK {
+			t.Fatal(l)
+		}
+		// Plans of one key differ, so that it plays a part what is known first.
+		fits(t, "crowded", stripes, room, l)
+		fits(t, "crowded, and cut", stripes, room, hist.Cut(l, c.Next(25)))
+		if t.Failed() {
+			t.Fatal(i, l)
+		}
 	}
 }
 

@@ -7,17 +7,14 @@ import (
 	"dulcimer/api"
 	"dulcimer/chance"
 	"dulcimer/duty"
+	"dulcimer/watch"
 )
 
 type fun = func(t *duty.Thread)
 
 func run(t *testing.T, fs []fun, picks []int, rounds int) duty.Report {
 	t.Helper()
-	r, e := duty.Run(fs, picks, rounds)
-	if e != api.OK {
-		t.Fatal(e)
-	}
-	return r
+	return watch.Run(t.Error, picks, rounds, fs...)
 }
 
 // P28.1
@@ -147,7 +144,7 @@ func TestCond(t *testing.T) {
 		t.Error("Broadcast", trace, r)
 	}
 	m, c, trace = Mutex{}, Cond{}, nil
-	r = run(t, []fun{wait, wait, wait, tell(false)}, []int{2, 2, 0, 0, 1, 1}, 12)
+	r = run(t, []fun{wait, wait, wait, tell(false)}, append([]int{2, 2, 0, 0, 1, 1}, slices.Repeat([]int{0, 1, 2, 3}, 12)...), 0)
 	if !slices.Equal(trace, []int{2}) || !slices.Equal(r.Parked, []bool{true, true, false, false}) || c.Waiting() != 2 {
 		t.Error("Signal", trace, r)
 	}

@@ -173,6 +173,19 @@ func TestGetLookupEvict(t *testing.T) {
 	}
 }
 
+// P36.3: which stripe has a key.
+func TestStripes(t *testing.T) {
+	for stripes := 1; stripes <= 16; stripes++ {
+		for _, k := range []api.Key{key(1), key(2), key(3), {N: 5, Dir: 1}, key(17), {N: 60, Dir: 1}} {
+			s, _ := New(stripes, 3)
+			s, ok := Any(s, ref(0), api.Call{Kind: api.CallGet, Key: k}, leaf(api.Naive, k.N))
+			if !ok || !slices.Equal(s.Kept[(2*k.N+k.Dir)%stripes], []api.Key{k}) {
+				t.Error(stripes, k, s.Kept)
+			}
+		}
+	}
+}
+
 // P36.2, P36.3
 func TestTexts(t *testing.T) {
 	a := start(t, 3, 1)
@@ -214,8 +227,12 @@ func TestHandles(t *testing.T) {
 	a.ask(release, api.Desc{}, api.Told{E: api.ErrReleased})
 	a.ask(execute, api.Desc{}, api.Told{E: api.ErrReleased})
 	a.no(ref(0), back, leaf(api.Small, 2))
+	a.ask(of(api.CallGet, 4096), leaf(api.Stock, 4096), api.Told{Desc: leaf(api.Stock, 4096)})
+	one := make([]uint64, 4096)
+	one[0] = 3
+	a.ask(api.Call{Kind: api.CallExecute, Of: ref(7), X: one}, api.Desc{}, api.Told{Y: slices.Repeat([]uint64{3}, 4096)})
 	a.ask(of(api.CallGet, 8192), leaf(api.Stock, 8192), api.Told{Desc: leaf(api.Stock, 8192)})
-	big := api.Call{Kind: api.CallExecute, Of: ref(7), X: make([]uint64, 8192)}
+	big := api.Call{Kind: api.CallExecute, Of: ref(9), X: make([]uint64, 8192)}
 	a.no(ref(50), big, api.Desc{})
 	big.X = big.X[:8191]
 	a.ask(big, api.Desc{}, api.Told{E: api.ErrLen})
@@ -247,6 +264,9 @@ func TestAny(t *testing.T) {
 			n := []int{2, 3, 4, 5, 8}[next(5)]
 			c := api.Call{Kind: 1 + next(7), Key: api.Key{N: n, Dir: next(2)}, Text: "dulcimer 1\n2 0 naive2\n8 1 split8(small2,small4)\n", Of: ref(next(60)), X: make([]uint64, n)}
 			d := api.Desc{Kind: api.Naive, N: n}
+			if n == 4 {
+				d = api.Desc{Kind: api.Split, N: n, Kids: []api.Desc{leaf(api.Small, 2), leaf(api.Small, 2)}}
+			}
 			told, ok := Answer(s, ref(i), c, d)
 			after, may := Any(s, ref(i), c, d)
 			if ok != may {

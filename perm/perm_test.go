@@ -137,6 +137,9 @@ func TestGrids(t *testing.T) {
 	if l, e := Crt(4095, 4096); e != api.OK || !Right(l) {
 		t.Error("Crt: great", e)
 	}
+	if l, e := Stride(1, api.MaxN); e != api.OK || len(l) != api.MaxN {
+		t.Error("Stride: greatest", e)
+	}
 	if l, e := Good(api.MaxN, 1); e != api.OK || !Right(l) {
 		t.Error("Good: greatest", e)
 	}

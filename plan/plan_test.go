@@ -11,6 +11,7 @@ import (
 	"dulcimer/duty"
 	"dulcimer/need"
 	"dulcimer/store"
+	"dulcimer/watch"
 )
 
 func of(kind, n int, kids ...api.Desc) api.Desc { return api.Desc{Kind: kind, N: n, Kids: kids} }
@@ -22,11 +23,7 @@ func some() []api.Desc {
 // alone runs f as the only thread, to its end, and tells how many turns it had.
 func alone(t *testing.T, f func(th *duty.Thread)) int {
 	t.Helper()
-	r, e := duty.Run([]func(*duty.Thread){f}, nil, 10000)
-	if e != api.OK || !r.Over[0] {
-		t.Error("it did not end", e)
-	}
-	return len(r.Order)
+	return len(watch.Run(t.Error, nil, 10000, f).Order)
 }
 
 // P31.1, P31.2, P31.4
@@ -70,7 +67,7 @@ func TestOrder(t *testing.T) {
 	s := store.New()
 	d := some()[4]
 	names, _ := need.Tables(d, 1)
-	duty.Run([]func(*duty.Thread){
+	watch.Run(t.Error, []int{0, 1, 1, 0, 1, 0, 1, 0, 1, 0, 1}, 0,
 		func(th *duty.Thread) { Build(th, s, api.Key{N: 16, Dir: 1}, d) },
 		func(th *duty.Thread) {
 			for i := range names {
@@ -82,7 +79,7 @@ func TestOrder(t *testing.T) {
 				}
 			}
 		},
-	}, []int{0, 1, 1, 0, 1, 0, 1, 0, 1, 0, 1}, 0)
+	)
 }
 
 // P31.1
@@ -194,9 +191,9 @@ func TestAnyTurns(t *testing.T) {
 				p.Drop(th)
 			}
 		}
-		r, e := duty.Run([]func(*duty.Thread){one, one, one, one}, picks, 2000)
-		if e != api.OK || slices.Contains(r.Over, false) || shared.Uses() != 1 || !slices.Equal(s.Names(), sorted(shared.Tables())) || s.Dirty() != 0 {
-			t.Fatal(seed, e, r.Over, shared.Uses(), s.Names())
+		watch.Run(t.Error, picks, 2000, one, one, one, one)
+		if t.Failed() || shared.Uses() != 1 || !slices.Equal(s.Names(), sorted(shared.Tables())) || s.Dirty() != 0 {
+			t.Fatal(seed, shared.Uses(), s.Names())
 		}
 	}
 }

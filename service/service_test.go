@@ -15,6 +15,7 @@ import (
 	"dulcimer/need"
 	"dulcimer/stripe"
 	"dulcimer/tick"
+	"dulcimer/watch"
 	"dulcimer/wisdom"
 )
 
@@ -27,11 +28,7 @@ func fresh(stripes, room int) *Service {
 
 func run(t *testing.T, picks []int, rounds int, fs ...func(*duty.Thread)) duty.Report {
 	t.Helper()
-	r, e := duty.Run(fs, picks, rounds)
-	if e != api.OK || rounds > 0 && slices.Contains(r.Over, false) {
-		t.Error("they did not end", r.Over, e)
-	}
-	return r
+	return watch.Run(t.Error, picks, rounds, fs...)
 }
 
 // P35.1

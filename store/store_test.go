@@ -9,6 +9,7 @@ import (
 	"dulcimer/duty"
 	"dulcimer/need"
 	"dulcimer/table"
+	"dulcimer/watch"
 )
 
 func powers(n int) api.Name { return api.Name{Kind: api.TabPowers, N: n} }
@@ -18,10 +19,7 @@ func chirp(n int) api.Name { return api.Name{Kind: api.TabChirp, N: n} }
 // alone runs f as the only thread, to its end.
 func alone(t *testing.T, f func(th *duty.Thread)) {
 	t.Helper()
-	r, e := duty.Run([]func(*duty.Thread){f}, nil, 1000)
-	if e != api.OK || !r.Over[0] {
-		t.Error("it did not end", r, e)
-	}
+	watch.Run(t.Error, nil, 1000, f)
 }
 
 // P30.1
@@ -147,16 +145,16 @@ func TestDirty(t *testing.T) {
 // P30.4
 func TestTurns(t *testing.T) {
 	s := New()
-	r, e := duty.Run([]func(*duty.Thread){func(th *duty.Thread) {
+	r := watch.Run(t.Error, nil, 99, func(th *duty.Thread) {
 		b, _ := s.Take(th, powers(8))
 		b.Data()
 		s.Uses(powers(8))
 		s.Drop(th, b)
 		s.Take(th, api.Name{})
 		s.Drop(th, nil)
-	}}, nil, 99)
-	if e != api.OK || len(r.Order) != 3 {
-		t.Error("one turn more for each Take and Drop", r, e)
+	})
+	if len(r.Order) != 3 {
+		t.Error("one turn more for each Take and Drop", r)
 	}
 }
 
@@ -189,9 +187,9 @@ func TestAnyOrder(t *testing.T) {
 			}
 		}
 		picks := ch.Picks(400, 6)
-		r, e := duty.Run([]func(*duty.Thread){one, one, one, one, one, one}, picks, 300)
-		if e != api.OK || slices.Contains(r.Over, false) || len(s.Names()) != 0 || s.Dirty() != 0 {
-			t.Fatal(e, r.Over, s.Names(), s.Dirty())
+		watch.Run(t.Error, picks, 300, one, one, one, one, one, one)
+		if t.Failed() || len(s.Names()) != 0 || s.Dirty() != 0 {
+			t.Fatal(s.Names(), s.Dirty())
 		}
 	}
 }

@@ -14,6 +14,7 @@ import (
 	"dulcimer/plan"
 	"dulcimer/store"
 	"dulcimer/tick"
+	"dulcimer/watch"
 )
 
 type fun = func(t *duty.Thread)
@@ -32,11 +33,7 @@ func fresh(room int, ticks ...int) (*Stripe, *store.Store, *tick.Script) {
 
 func run(t *testing.T, picks []int, rounds int, fs ...fun) duty.Report {
 	t.Helper()
-	r, e := duty.Run(fs, picks, rounds)
-	if e != api.OK || rounds > 0 && slices.Contains(r.Over, false) {
-		t.Error("they did not end", r.Over, e)
-	}
-	return r
+	return watch.Run(t.Error, picks, rounds, fs...)
 }
 
 // P34.1

@@ -63,28 +63,52 @@ func TestPrint(t *testing.T) {
 	}
 }
 
-// P25.2
+// P25.2: a text of just as many bytes as there may be, and of one more.
 func TestPrintBig(t *testing.T) {
-	// Each plan is as long as its depth lets it be, so that a text fills up to the last byte and past it.
-	all := many(1000)
-	for i := range all {
-		all[i].Desc = long(all[i].Key.N, 6)
+	l := many(1000)
+	for i := range l {
+		l[i].Desc = long(l[i].Key.N, 6)
 	}
-	full := len(all)
-	for n := range all {
-		s, e := Print(all[:n])
-		if e == api.ErrBig {
-			full = n
-			break
+	size := func(l []api.Entry) int {
+		n := len("dulcimer 1\n")
+		for _, x := range l {
+			line, _ := entry.Print(x)
+			n += len(line) + 1
 		}
-		if e != api.OK || len(s) > api.MaxText {
-			t.Fatal(n, len(s), e)
+		return n
+	}
+	// The word good is shorter by one than split, and there are many plans of which the root may be either.
+	for size(l) > api.MaxText+100 {
+		l = l[1:]
+	}
+	for i := 0; size(l) > api.MaxText+1; i++ {
+		if d := &l[i].Desc; d.Kind == api.Split {
+			d.Kind = api.Good
+			if entry.Check(l[i]) != api.OK {
+				d.Kind = api.Split
+			}
 		}
 	}
-	if full == len(all) {
-		t.Skip("no text is big")
+	over := slices.Clone(l)
+	if size(l) != api.MaxText+1 {
+		t.Fatal("the text has", size(l))
 	}
-	if s, e := Print(append(slices.Clone(all), all[0])); s != "" || e != api.ErrTwice {
+	for i := range l {
+		if d := l[i].Desc; d.Kind == api.Split {
+			l[i].Desc.Kind = api.Good
+			if entry.Check(l[i]) == api.OK {
+				break
+			}
+			l[i].Desc.Kind = api.Split
+		}
+	}
+	if s, e := Print(l); e != api.OK || len(s) != api.MaxText {
+		t.Error("as many as there may be", len(s), e)
+	}
+	if s, e := Print(over); s != "" || e != api.ErrBig {
+		t.Error("one more", len(s), e)
+	}
+	if s, e := Print(append(over, over[0])); s != "" || e != api.ErrTwice {
 		t.Error("ErrTwice ahead of ErrBig", e)
 	}
 }
