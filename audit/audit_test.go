@@ -89,6 +89,11 @@ func TestLook(t *testing.T) {
 		{func(s *play.Script, r *play.Report) { r.Kept[0][1] = r.Kept[0][0] }, []int{3, 5}},
 		{func(s *play.Script, r *play.Report) { r.Kept[0], r.Kept[1] = r.Kept[1], r.Kept[0] }, []int{5}},
 		{func(s *play.Script, r *play.Report) { r.Kept[0] = append(r.Kept[0], key(4)); s.Room = 3 }, []int{5}},
+		{func(s *play.Script, r *play.Report) {
+			odd := api.Key{N: -1, Dir: -1}
+			r.Known = append([]api.Entry{{Key: odd}}, r.Known...)
+			r.Kept[1] = append(r.Kept[1], odd)
+		}, []int{6}},
 		{func(s *play.Script, r *play.Report) { s.Stripes = -1 }, []int{2, 5}},
 		{func(s *play.Script, r *play.Report) { s.Stripes = math.MaxInt }, []int{2, 5}},
 		{func(s *play.Script, r *play.Report) { r.Known[0], r.Known[1] = r.Known[1], r.Known[0] }, []int{6}},

@@ -76,7 +76,7 @@ func TestHits(t *testing.T) {
 	if h, m := Hits(some()); h != 1 || m != 1 {
 		t.Error(h, m)
 	}
-	if h, m := Hits([]api.Op{op(0, 2, 0, 1, 0), op(0, 2, 2, -1, 0), op(0, 1, 4, 5, 0), op(0, 2, 6, 7, 0), op(0, 2, 6, 7, 7), op(0, 2, 6, 7, 4)}); h != 2 || m != 1 {
+	if h, m := Hits([]api.Op{op(0, 2, 0, 1, 0), op(0, 2, 2, -1, 0), op(0, 1, 4, 5, 0), op(0, 2, 6, 7, 0), op(0, 2, 6, 7, 7), op(0, 2, 6, 7, 7), op(0, 2, 6, 7, 4)}); h != 2 || m != 2 {
 		t.Error(h, m)
 	}
 }
