@@ -246,6 +246,38 @@ func TestReleasedMeanwhile(t *testing.T) {
 	}
 }
 
+// counted looks whether each table has as many uses as there are plans that name it, among those that are kept and those of open handles.
+func counted(t *testing.T, s *Service, open []*Handle) {
+	t.Helper()
+	uses := map[api.Name]int{}
+	count := func(x api.Entry) {
+		names, _ := need.Tables(x.Desc, x.Key.Dir)
+		for _, n := range names {
+			uses[n]++
+		}
+	}
+	for i := range 3 {
+		for _, k := range s.Kept(i) {
+			j := slices.IndexFunc(s.Known(), func(x api.Entry) bool { return x.Key == k })
+			count(s.Known()[j])
+		}
+	}
+	for i, h := range open {
+		if !s.Keeps(h) && !slices.ContainsFunc(open[:i], func(g *Handle) bool { return One(g, h) }) {
+			count(h.Entry())
+		}
+	}
+	names := s.Store().Names()
+	if len(names) != len(uses) || s.Flying() != 0 || s.Store().Dirty() != 0 {
+		t.Fatal(names, uses)
+	}
+	for _, n := range names {
+		if s.Store().Uses(n) != uses[n] {
+			t.Error(n, s.Store().Uses(n), uses[n])
+		}
+	}
+}
+
 // P35.6
 func TestAnyTurns(t *testing.T) {
 	for seed := range 60 {
@@ -292,33 +324,7 @@ func TestAnyTurns(t *testing.T) {
 		}
 		picks := ch.Picks(500, 5)
 		run(t, picks, 3000, one, one, one, one, one)
-		uses := map[api.Name]int{}
-		count := func(x api.Entry) {
-			names, _ := need.Tables(x.Desc, x.Key.Dir)
-			for _, n := range names {
-				uses[n]++
-			}
-		}
-		for i := range 3 {
-			for _, k := range s.Kept(i) {
-				j := slices.IndexFunc(s.Known(), func(x api.Entry) bool { return x.Key == k })
-				count(s.Known()[j])
-			}
-		}
-		for i, h := range open {
-			if !s.Keeps(h) && !slices.ContainsFunc(open[:i], func(g *Handle) bool { return One(g, h) }) {
-				count(h.Entry())
-			}
-		}
-		names := s.Store().Names()
-		if len(names) != len(uses) || s.Flying() != 0 || s.Store().Dirty() != 0 {
-			t.Fatal(seed, names, uses)
-		}
-		for _, n := range names {
-			if s.Store().Uses(n) != uses[n] {
-				t.Error(seed, n, s.Store().Uses(n), uses[n])
-			}
-		}
+		counted(t, s, open)
 		for _, x := range s.Known() {
 			if entry.Check(x) != api.OK || desc.Nodes(x.Desc) < 1 {
 				t.Error(x)
